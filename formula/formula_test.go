@@ -507,7 +507,7 @@ func over(l []api.Formula) []api.Formula {
 	return up
 }
 
-// middle returns formulas of up to three levels.
+// middle returns all formulas of up to two levels over the leaves, and some of three.
 func middle() []api.Formula {
 	low := append(leaves(), over(leaves())...)
 	var few []api.Formula
@@ -1104,7 +1104,7 @@ func TestDecodeSpoiled(t *testing.T) {
 	}
 }
 
-// P7.1 to P7.7 and P7.9: all small formulas, as the reference has them.
+// P7.1 to P7.7 and P7.9: formulas of up to three levels, as the reference has them.
 func TestEvery(t *testing.T) {
 	l := scenes(t)
 	for _, f := range middle() {
